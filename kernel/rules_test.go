@@ -141,10 +141,10 @@ func usesKnown(p api.Prog, number int, known map[int]bool) bool {
 	return true
 }
 
-// tellsFree reports whether the Free of all procedures that Main leads to are what they should be.
+// tellsFree reports whether the Free of all procedures, also of those that Main does not lead to, are what they should be.
 func tellsFree(p api.Prog) bool {
-	for _, i := range reached(p) {
-		if s := p.Stmts[i]; s.Op == "proc" && !slices.Equal(s.Free, outsideOf(p, i)) {
+	for i, s := range p.Stmts {
+		if s.Op == "proc" && !slices.Equal(s.Free, outsideOf(p, i)) {
 			return false
 		}
 	}

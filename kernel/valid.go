@@ -135,29 +135,16 @@ func isKnown(vars set, given int) bool {
 	return true
 }
 
-// areFreeTold reports whether the Free of all procedures to which Main leads are the variables that they use from outside.
+// areFreeTold reports whether the Free of each procedure are the variables that it uses from outside. Unlike what is known, this is also asked where Main does not lead.
 func areFreeTold(p api.Prog, free []set) bool {
-	for _, s := range ledTo(p) {
+	for _, s := range p.Stmts {
+		if s.Op != "proc" {
+			continue
+		}
 		outside := freeWithin(s, free)
-		if s.Op == "proc" && !slices.Equal(s.Free, outside.list()) {
+		if !slices.Equal(s.Free, outside.list()) {
 			return false
 		}
 	}
 	return true
-}
-
-// ledTo returns Main and all statements to which it leads, each once.
-func ledTo(p api.Prog) []api.Stmt {
-	seen := make([]bool, len(p.Stmts))
-	seen[p.Main] = true
-	out := []api.Stmt{p.Stmts[p.Main]}
-	for i := 0; i < len(out); i++ {
-		for _, part := range out[i].Parts {
-			if !seen[part] {
-				seen[part] = true
-				out = append(out, p.Stmts[part])
-			}
-		}
-	}
-	return out
 }

@@ -329,7 +329,7 @@ func TestFreeOfProc(t *testing.T) {
 	checkValid(t, "of itself, without it", recursive, false)
 }
 
-// Of statements to which Main does not lead only their form is asked, and that each variable is made at one place.
+// Of statements to which Main does not lead it is asked that their form is right, that none leads to itself, that each variable is made at one place, and that procedures tell their Free; but not that what they use is known.
 func TestNotLedTo(t *testing.T) {
 	base := progOf("X Y", "A B", skipStmt, api.Stmt{Op: "local", Vars: []int{12}, Parts: []int{0}}, api.Stmt{Op: "try", Vars: []int{13}, Parts: []int{0, 0}}, skipStmt)
 	with := func(what string, want bool, s api.Stmt) {
@@ -350,7 +350,9 @@ func TestNotLedTo(t *testing.T) {
 	with("leads to itself", false, api.Stmt{Op: "thread", Parts: []int{0}})
 	with("makes what is made", false, api.Stmt{Op: "local", Vars: []int{12}, Parts: []int{3}})
 	with("makes what is given", false, api.Stmt{Op: "local", Vars: []int{11}, Parts: []int{3}})
-	with("tells of other Free", true, api.Stmt{Op: "proc", Vars: []int{10}, Parts: []int{3}, Free: []int{11}})
+	with("is a proc", true, api.Stmt{Op: "proc", Vars: []int{10}, Parts: []int{3}})
+	with("is a proc that is put into what is not known", true, api.Stmt{Op: "proc", Vars: []int{12}, Parts: []int{3}})
+	with("tells of other Free", false, api.Stmt{Op: "proc", Vars: []int{10}, Parts: []int{3}, Free: []int{11}})
 	with("has a Free that is none", false, api.Stmt{Op: "proc", Vars: []int{10}, Parts: []int{3}, Free: []int{14}})
 	p := clone(base)
 	p.Stmts[0] = api.Stmt{Op: "choose", Parts: []int{1, 2}}
@@ -361,6 +363,71 @@ func TestNotLedTo(t *testing.T) {
 	p.Main = 0
 	if ok, e := kernel.Declarative(p); e != api.OK || ok {
 		t.Errorf("Declarative of what Main leads to: %v, %d", ok, e)
+	}
+}
+
+// The Free of procedures to which Main does not lead: just what their bodies use and do not make, whether or not it is known anywhere.
+func TestFreeOfProcNotLedTo(t *testing.T) {
+	apply := func(vars ...int) api.Stmt { return api.Stmt{Op: "apply", Vars: vars} }
+	local := func(v, part int) api.Stmt { return api.Stmt{Op: "local", Vars: []int{v}, Parts: []int{part}} }
+	proc := func(v, parameter, part int, free ...int) api.Stmt {
+		return api.Stmt{Op: "proc", Vars: []int{v, parameter}, Parts: []int{part}, Free: free}
+	}
+	for what, stmts := range map[string][]api.Stmt{
+		"uses nothing":                          {skipStmt, proc(10, 14, 0), local(12, 0), local(13, 0)},
+		"uses a builtin":                        {apply(0), proc(10, 14, 0, 0), local(12, 0), local(13, 0)},
+		"uses its parameter":                    {apply(14), proc(10, 14, 0), local(12, 0), local(13, 0)},
+		"uses given ones":                       {apply(11, 14, 10, 11), proc(12, 14, 0, 10, 11), local(12, 1), local(13, 0)},
+		"uses what it is put into":              {apply(11), proc(11, 14, 0, 11), local(12, 0), local(13, 0)},
+		"uses what others make":                 {apply(13, 12), proc(10, 14, 0, 12, 13), skipStmt, local(12, 2), local(13, 2)},
+		"uses what it makes":                    {apply(13, 12), local(12, 0), local(13, 1), proc(10, 14, 2)},
+		"uses what is made around it":           {apply(12, 13), local(12, 0), proc(10, 14, 1, 13), local(13, 2)},
+		"uses what it makes elsewhere":          {apply(12, 13), skipStmt, local(12, 1), local(13, 0), {Op: "seq", Parts: []int{2, 3}}, proc(10, 14, 4, 12)},
+		"uses it in the first part of a try":    {apply(12, 13), local(13, 0), {Op: "try", Vars: []int{12}, Parts: []int{1, 1}}, proc(10, 14, 2, 12)},
+		"uses it in the rest of a casetuple":    {apply(12, 13), local(13, 0), {Op: "casetuple", Vars: []int{11, 12}, Text: "f", Parts: []int{1, 1}}, proc(10, 14, 2, 11, 12)},
+		"is in another one, which makes its":    {apply(11, 12, 14), proc(10, 12, 0, 11, 14), proc(10, 14, 1, 10, 11), local(13, 0)},
+		"is in another one, which does not":     {apply(11, 12, 13), proc(10, 12, 0, 11, 13), proc(10, 14, 1, 10, 11, 13), local(13, 0)},
+		"shares its body with another one":      {apply(11, 12, 14), proc(10, 12, 0, 11, 14), proc(10, 14, 0, 11, 12), local(13, 0)},
+		"comes before its body, and is no part": {proc(10, 14, 1, 11), apply(11), local(12, 1), local(13, 2)},
+	} {
+		p := progOf("X Y", "A B C", append(stmts, skipStmt)...)
+		checkValid(t, "a proc "+what, p, true)
+		for i, s := range stmts {
+			for _, free := range [][]int{{}, {0}, {10}, {11}, {12}, {13}, {14}, {10, 11}, {11, 12}, {11, 14}, {12, 13}, {13, 12}, {12, 12}, {10, 11, 13}, {10, 11, 12, 13, 14}} {
+				if s.Op == "proc" && !slices.Equal(free, s.Free) {
+					q := clone(p)
+					q.Stmts[i].Free = free
+					checkValid(t, "with other Free, a proc "+what, q, false)
+				}
+			}
+		}
+	}
+}
+
+// What Make leaves without a way from Main has procedures, too, which tell their Free.
+func TestFreeOfProcsNotLedToOfMade(t *testing.T) {
+	count := 0
+	manyPrograms(t, 22, 3000, func(m maker, x api.Syn, p api.Prog) {
+		led := reached(p)
+		for i, s := range p.Stmts {
+			if s.Op != "proc" || slices.Contains(led, i) {
+				continue
+			}
+			count++
+			v := m.Intn(len(p.Names))
+			at, has := slices.BinarySearch(s.Free, v)
+			q := clone(p)
+			if has {
+				q.Stmts[i].Free = slices.Delete(q.Stmts[i].Free, at, at+1)
+			} else {
+				q.Stmts[i].Free = slices.Insert(q.Stmts[i].Free, at, v)
+			}
+			checkValid(t, "made", p, true)
+			checkValid(t, "made, with another Free", q, false)
+		}
+	})
+	if count < 100 {
+		t.Errorf("only %d procedures", count)
 	}
 }
 
